@@ -46,6 +46,14 @@ func (f Field) Read(s string) (Number, bool) {
 	return n, true
 }
 
+// Rest reads what any 32 bytes tell, the highest first, modulo the prime, and tells whether s has as many.
+func (f Field) Rest(s string) (Number, bool) {
+	if len(s) != size {
+		return Number{}, false
+	}
+	return f.rest(number(s)), true
+}
+
 // Plus gives a + b.
 func (f Field) Plus(a Number, b Number) Number {
 	sum, over := a.plus(b)
